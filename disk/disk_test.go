@@ -418,6 +418,9 @@ func TestNilDisk(t *testing.T) {
 	answers(t, "Crash", d.Crash([]int{1}, 1), api.ErrNone)
 	has(t, d, 0)
 	power(t, d, false, 0)
+	if n := d.Crashes(); n != 0 {
+		t.Errorf("Crashes: %d", n)
+	}
 }
 
 // A caller may write over what it handed in.

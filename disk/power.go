@@ -8,6 +8,7 @@ type power struct {
 	off     bool
 	left    int // changes till it goes off, that one included; 0: it stays on
 	changes int
+	crashes int // how many times it came back
 }
 
 // arm lets the power go off at the n-th change from now on; 0: at none.
@@ -35,5 +36,6 @@ func (p *power) change() api.Errno {
 // restore brings the power back, with nothing armed.
 func (p *power) restore() {
 	p.off = false
+	p.crashes++
 	p.arm(0)
 }

@@ -194,3 +194,30 @@ func TestCrashIsNoChange(t *testing.T) {
 	power(t, d, true, 4)
 	holds(t, d, "a", "123")
 }
+
+// Each crash is counted, whether the power is on or off; nothing else is.
+func TestCrashesAreCounted(t *testing.T) {
+	d := filled(t, 100, "a", "123")
+	counts := func(want int) {
+		t.Helper()
+		if n := d.Crashes(); n != want {
+			t.Errorf("Crashes: %d, want %d", n, want)
+		}
+	}
+	counts(0)
+	others(t, d)
+	counts(0)
+	fine(t, d.Crash(nil, 0))
+	counts(1)
+	power(t, d, true, 3)
+	fine(t, d.Arm(2), d.Crash([]int{9}, 1))
+	counts(2)
+	down(t, d, "a")
+	others(t, d)
+	counts(2)
+	fine(t, d.Crash(nil, 0))
+	counts(3)
+	if n := room(t, 100).Crashes(); n != 0 {
+		t.Errorf("another disk has %d", n)
+	}
+}

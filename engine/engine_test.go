@@ -456,6 +456,45 @@ func TestDownMeanwhile(t *testing.T) {
 	}
 }
 
+// Neither does an engine outlast a crash of which it was told nothing: while it
+// did nothing, the power went and came back.
+func TestCrashBetweenCalls(t *testing.T) {
+	crashes := map[string]func(*disk.Disk){
+		"with the power on": func(d *disk.Disk) { fine(t, d.Crash(nil, 0)) },
+		"with all kept":     func(d *disk.Disk) { fine(t, d.Crash([]int{1 << 20, 1 << 20}, 1)) },
+		"twice":             func(d *disk.Disk) { fine(t, d.Crash(nil, 0), d.Crash(nil, 0)) },
+		"while armed":       func(d *disk.Disk) { fine(t, d.Arm(1), d.Crash(nil, 0)) },
+		"with the power off": func(d *disk.Disk) {
+			fine(t, d.Arm(1))
+			is(t, "Create", d.Create("x"), api.ErrDown)
+			fine(t, d.Crash(nil, 0))
+		},
+	}
+	for what, crash := range crashes {
+		e, d := busy(t)
+		before := told(e)
+		crash(d)
+		files := image(t, d)
+		refusesAll(t, e)
+		if told(e) != before {
+			t.Errorf("%s: %s, before %s", what, told(e), before)
+		}
+		if image(t, d) != files || !d.On() {
+			t.Errorf("%s: an engine that isn't up has changed the disk", what)
+		}
+		// Opened anew it is up, and the one that was opened ahead of the crash stays down.
+		again := open(t, d)
+		if told(again) != before || !again.Up() {
+			t.Errorf("%s: opened anew: %s, before %s", what, told(again), before)
+		}
+		refusesAll(t, e)
+		fine(t, again.Write(ops(put("q", "x"))), again.Flush())
+		if !again.Up() {
+			t.Errorf("%s: opened anew it isn't up", what)
+		}
+	}
+}
+
 func TestOpenRefuses(t *testing.T) {
 	e, err := engine.Open(nil)
 	if e != nil || err != api.ErrNone {

@@ -80,7 +80,7 @@ func (e *Engine) install(change edit.Edit, sheets []sheet, others []file, old []
 		return err
 	}
 	if err := e.settle(change, files, old); err != api.OK {
-		return e.after(err)
+		return err
 	}
 	e.state = state
 	for _, n := range change.Drop {

@@ -109,6 +109,7 @@ func load(d *disk.Disk) (*Engine, []entry.Note, bool) {
 	e := &Engine{
 		recent:   recent{memo: memo.New(), last: state.Whole().Seq},
 		disk:     d,
+		crashes:  d.Crashes(),
 		manifest: tape{name: string(name)},
 		log:      log,
 		state:    state,

@@ -98,7 +98,7 @@ func (e *Engine) note(n entry.Note, heights ...int) api.Errno {
 		return err
 	}
 	if err := e.log.add(e.disk, p); err != api.OK {
-		return e.after(err)
+		return err
 	}
 	e.tell(n, heights...)
 	return api.OK
